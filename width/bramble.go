@@ -36,13 +36,16 @@ func (t town) cover(l []int) int {
 // bramble returns a bramble that no set of so many nodes covers, where the town has no
 // tree decomposition with bags of at most so many nodes.
 //
-// It takes as many sets as it can, small ones first, for split up although they are not,
-// so long as the whole town cannot be split up with them; but none that has one of those
-// that it kept. What it keeps is what the proof of the duality calls a least family:
-// every set of so many nodes leaves a connected set that has a kept one, and two kept
-// ones that do not touch would let the trees in which each of them is the only one left
-// be joined to a tree without both. No kept set has another one, so that they are at
-// most 126 of nine nodes.
+// It goes through the connected sets, small ones first, and takes each one for split up
+// already, unless the whole town could then be split up: such a set is kept. Sets that
+// contain a kept one are left out.
+//
+// Why the kept sets are a bramble: the rest of the town around any set of so many nodes
+// has a part that contains a kept set, else that set would split up the town. And each
+// kept set has a tree in which it alone is not split up; if two of them did not touch,
+// their trees could be joined along a least cut between the two, to one without both.
+//
+// No kept set contains another one, so there are at most 126 of them in nine nodes.
 func (t town) bramble(size int) []int {
 	var kept []int
 	split := map[int]bool{}
